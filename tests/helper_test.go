@@ -76,3 +76,20 @@ func isUntouched(list, numbers []int) bool {
 	}
 	return slices.Equal(list, numbers)
 }
+
+// wantNewLists requires of each call that what is written to its list, and to the room behind it, is not seen in the next one.
+func wantNewLists(t *testing.T, calls map[string]func() ([]int, bool)) {
+	t.Helper()
+	for name, call := range calls {
+		first, _ := call()
+		kept := slices.Clone(first)
+		for i := range first[:cap(first)] {
+			first[:cap(first)][i] = -99
+		}
+		again, ok := call()
+		wantList(t, name, kept, again, ok)
+		if len(kept) == 0 {
+			t.Error(name, "gives nothing to look at")
+		}
+	}
+}

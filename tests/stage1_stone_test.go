@@ -605,16 +605,5 @@ func TestStoneResultsAreNew(t *testing.T) {
 		"StonesToAdd":   func() ([]int, bool) { return impl.StonesToAdd(".o..o", 1) },
 		"LeapsLeft":     func() ([]int, bool) { return impl.LeapsLeft(".o..o", 3) },
 	}
-	for name, call := range calls {
-		first, _ := call()
-		kept := slices.Clone(first)
-		for i := range first[:cap(first)] {
-			first[:cap(first)][i] = -99
-		}
-		again, ok := call()
-		wantList(t, name, kept, again, ok)
-		if len(kept) == 0 {
-			t.Error(name, "gives nothing to look at")
-		}
-	}
+	wantNewLists(t, calls)
 }

@@ -647,18 +647,7 @@ func TestFrogResultsAreNew(t *testing.T) {
 		"LongestFrogPlay": func() ([]int, bool) { return impl.LongestFrogPlay("rr.ll") },
 		"ShortestStuck":   func() ([]int, bool) { return impl.ShortestStuck("rr.ll") },
 	}
-	for name, call := range calls {
-		first, _ := call()
-		kept := slices.Clone(first)
-		for i := range first[:cap(first)] {
-			first[:cap(first)][i] = -99
-		}
-		again, ok := call()
-		wantList(t, name, kept, again, ok)
-		if len(kept) == 0 {
-			t.Error(name, "gives nothing to look at")
-		}
-	}
+	wantNewLists(t, calls)
 	stuck, _ := impl.StuckPonds("rr.ll")
 	kept := slices.Clone(stuck)
 	clear(stuck[:cap(stuck)])
