@@ -3,6 +3,7 @@ package tests
 import (
 	"math"
 	"slices"
+	"strings"
 	"testing"
 )
 
@@ -90,6 +91,66 @@ func wantNewLists(t *testing.T, calls map[string]func() ([]int, bool)) {
 		wantList(t, name, kept, again, ok)
 		if len(kept) == 0 {
 			t.Error(name, "gives nothing to look at")
+		}
+	}
+}
+
+func sumByHand(numbers []int) int {
+	sum := 0
+	for _, n := range numbers {
+		sum += n
+	}
+	return sum
+}
+
+// partsOf returns all increasing lists of indices less than n, in lexicographic order, the empty one first.
+func partsOf(n int) [][]int {
+	var parts [][]int
+	for set := range 1 << n {
+		var part []int
+		for i := range n {
+			if set>>i&1 == 1 {
+				part = append(part, i)
+			}
+		}
+		parts = append(parts, part)
+	}
+	slices.SortFunc(parts, slices.Compare)
+	return parts
+}
+
+func picked(list, part []int) []int {
+	var numbers []int
+	for _, i := range part {
+		numbers = append(numbers, list[i])
+	}
+	return numbers
+}
+
+// mixedRow returns numbers that follow a rule and look mixed.
+type mixedRow struct{ z int }
+
+func (r *mixedRow) next(below int) int {
+	r.z = (r.z*7141 + 54773) % 259200
+	return r.z * below / 259200
+}
+
+func (r *mixedRow) list(count, least, most int) []int {
+	list := make([]int, count)
+	for i := range list {
+		list[i] = least + r.next(most-least+1)
+	}
+	return list
+}
+
+func isFailure(told string) bool { return told == "0 false" || told == "false false" }
+
+// requireFailures requires that just the named calls fail, with zero values, and that all others succeed.
+func requireFailures(t *testing.T, what string, told map[string]string, failing ...string) {
+	t.Helper()
+	for name, results := range told {
+		if fails := slices.Contains(failing, name); fails && !isFailure(results) || !fails && !strings.HasSuffix(results, " true") {
+			t.Errorf("%s with %s: %s", name, what, results)
 		}
 	}
 }

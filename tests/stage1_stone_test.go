@@ -516,8 +516,6 @@ func stoneCalls(leap, number int) map[string]func(river string) string {
 	}
 }
 
-func isFailure(told string) bool { return told == "0 false" || told == "false false" }
-
 // Promise 11: texts that are no rivers make every call fail with zero values.
 func TestTextsThatAreNoRivers(t *testing.T) {
 	for _, text := range noRivers() {

@@ -33,38 +33,6 @@ func coveringsByHand(gaps, planks []int, rest int) [][]int {
 	return all
 }
 
-func sumByHand(numbers []int) int {
-	sum := 0
-	for _, n := range numbers {
-		sum += n
-	}
-	return sum
-}
-
-// partsOf returns all increasing lists of indices less than n, in lexicographic order, the empty one first.
-func partsOf(n int) [][]int {
-	var parts [][]int
-	for set := range 1 << n {
-		var part []int
-		for i := range n {
-			if set>>i&1 == 1 {
-				part = append(part, i)
-			}
-		}
-		parts = append(parts, part)
-	}
-	slices.SortFunc(parts, slices.Compare)
-	return parts
-}
-
-func picked(list, part []int) []int {
-	var numbers []int
-	for _, i := range part {
-		numbers = append(numbers, list[i])
-	}
-	return numbers
-}
-
 // joinedByHand lays planks one behind the other, each one back by the lap from the end of the one before.
 func joinedByHand(planks []int, lap int) int {
 	end := 0
@@ -120,22 +88,6 @@ func plankLists(most, longest int) [][]int {
 	return all
 }
 
-// plankRow returns numbers that follow a rule and look mixed.
-type plankRow struct{ z int }
-
-func (r *plankRow) next(below int) int {
-	r.z = (r.z*7141 + 54773) % 259200
-	return r.z * below / 259200
-}
-
-func (r *plankRow) list(count, least, most int) []int {
-	list := make([]int, count)
-	for i := range list {
-		list[i] = least + r.next(most-least+1)
-	}
-	return list
-}
-
 func wantFraction(t *testing.T, what string, want *big.Rat, a, b int, ok bool) {
 	t.Helper()
 	if !ok || !want.Num().IsInt64() || int64(a) != want.Num().Int64() || int64(b) != want.Denom().Int64() {
@@ -187,7 +139,7 @@ func TestCoveringsOfSmallPlanks(t *testing.T) {
 
 // Promise 3: mixed gaps and planks up to MaxPlanks, of lengths up to MaxPlank, with rests up to MaxRest.
 func TestCoveringsOfMixedPlanks(t *testing.T) {
-	row := &plankRow{1}
+	row := &mixedRow{1}
 	for range 1500 {
 		gaps := row.list(1+row.next(impl.MaxPlanks), 1, 60)
 		planks := row.list(1+row.next(impl.MaxPlanks), 1+row.next(60), impl.MaxPlank)
@@ -272,7 +224,7 @@ func TestWidestGap(t *testing.T) {
 			checkWidest(t, planks, rest)
 		}
 	}
-	row := &plankRow{2}
+	row := &mixedRow{2}
 	for range 500 {
 		checkWidest(t, row.list(1+row.next(impl.MaxPlanks), 1, impl.MaxPlank), row.next(impl.MaxRest+1))
 	}
@@ -280,7 +232,7 @@ func TestWidestGap(t *testing.T) {
 
 // The widest gaps are covered, and gaps that are wider by 1 are not.
 func TestWidestGapIsCovered(t *testing.T) {
-	row := &plankRow{3}
+	row := &mixedRow{3}
 	for range 300 {
 		planks, rest := row.list(1+row.next(impl.MaxPlanks), 21, impl.MaxPlank-1), row.next(impl.MaxRest+1)
 		gaps := 1 + row.next(len(planks))
@@ -320,7 +272,7 @@ func TestJoinedSmallPlanks(t *testing.T) {
 }
 
 func TestJoinedMixedPlanks(t *testing.T) {
-	row := &plankRow{4}
+	row := &mixedRow{4}
 	for range 2000 {
 		planks := row.list(1+row.next(impl.MaxPlanks), 1+row.next(12), 12+row.next(30))
 		rest, lap := row.next(impl.MaxRest+1), row.next(impl.MaxRest+1)
@@ -580,7 +532,7 @@ func TestEdgesOfWalks(t *testing.T) {
 }
 
 func TestSortedPlanks(t *testing.T) {
-	row := &plankRow{5}
+	row := &mixedRow{5}
 	lists := append(plankLists(4, 4), []int{1, 100}, []int{100, 1}, []int{7, 7, 7, 7, 7, 7, 7}, []int{1, 2, 3, 4, 5, 6, 7}, []int{9, 10, 100})
 	for range 200 {
 		lists = append(lists, row.list(1+row.next(impl.MaxPlanks), 1, impl.MaxPlank))
@@ -596,7 +548,7 @@ func TestSortedPlanks(t *testing.T) {
 
 // Planks are read back from their texts.
 func TestPlanksTexts(t *testing.T) {
-	row := &plankRow{6}
+	row := &mixedRow{6}
 	lists := append(plankLists(3, 11), slices.Repeat([]int{impl.MaxPlank}, impl.MaxPlanks), slices.Repeat([]int{1}, impl.MaxPlanks))
 	for range 200 {
 		lists = append(lists, row.list(1+row.next(impl.MaxPlanks), 1, impl.MaxPlank))
@@ -696,16 +648,6 @@ func plankCalls(gaps, planks []int, n plankNumbers) map[string]string {
 	text, ok := impl.PlanksText(planks)
 	number("PlanksText", len(text), ok)
 	return told
-}
-
-// requireFailures requires that just the named calls fail, with zero values, and that all others succeed.
-func requireFailures(t *testing.T, what string, told map[string]string, failing ...string) {
-	t.Helper()
-	for name, results := range told {
-		if fails := slices.Contains(failing, name); fails && !isFailure(results) || !fails && !strings.HasSuffix(results, " true") {
-			t.Errorf("%s with %s: %s", name, what, results)
-		}
-	}
 }
 
 // Promise 11: lists that are no planks or no gaps make all calls with them fail with zero values.
