@@ -49,6 +49,17 @@ func wantIntOr(t *testing.T, what string, exists bool, want, got int, ok bool) {
 	}
 }
 
+// wantTextOr requires the text if there is one, and that the call fails otherwise.
+func wantTextOr(t *testing.T, what string, exists bool, want, got string, ok bool) {
+	t.Helper()
+	if !exists {
+		want = ""
+	}
+	if got != want || ok != exists {
+		t.Errorf("%s: %q %v, want %q %v", what, got, ok, want, exists)
+	}
+}
+
 // wantListOr requires the list if there is one, and that the call fails otherwise.
 func wantListOr(t *testing.T, what string, exists bool, want, got []int, ok bool) {
 	t.Helper()
