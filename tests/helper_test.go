@@ -1,6 +1,7 @@
 package tests
 
 import (
+	"fmt"
 	"math"
 	"slices"
 	"strings"
@@ -71,6 +72,28 @@ func wantListOr(t *testing.T, what string, exists bool, want, got []int, ok bool
 	}
 }
 
+// wantTwo requires both numbers if there are such, and that the call fails otherwise.
+func wantTwo(t *testing.T, what string, exists bool, want, wantNext, got, gotNext int, ok bool) {
+	t.Helper()
+	if !exists {
+		want, wantNext = 0, 0
+	}
+	if got != want || gotNext != wantNext || ok != exists {
+		t.Errorf("%s: %d %d %v, want %d %d %v", what, got, gotNext, ok, want, wantNext, exists)
+	}
+}
+
+// wantRowsOr requires the lists if there are such, and that the call fails otherwise.
+func wantRowsOr(t *testing.T, what string, exists bool, want, got [][]int, ok bool) {
+	t.Helper()
+	if !exists {
+		want = nil
+	}
+	if !slices.EqualFunc(want, got, slices.Equal) || ok != exists {
+		t.Errorf("%s: %v %v, want %v %v", what, got, ok, want, exists)
+	}
+}
+
 // withRoom returns a list with the same numbers, and behind them room that holds 77s.
 func withRoom(list []int) []int {
 	room := slices.Repeat([]int{77}, len(list)+4)
@@ -103,6 +126,33 @@ func wantNewLists(t *testing.T, calls map[string]func() ([]int, bool)) {
 		if len(kept) == 0 {
 			t.Error(name, "gives nothing to look at")
 		}
+	}
+}
+
+// wantNewRows requires of each call that what is written to one of its lists, and to the room behind it, is seen neither in its others nor in the next ones.
+func wantNewRows(t *testing.T, calls map[string]func() ([][]int, bool)) {
+	t.Helper()
+	for name, call := range calls {
+		first, _ := call()
+		var kept [][]int
+		for _, row := range first {
+			kept = append(kept, slices.Clone(row))
+		}
+		if len(kept) < 2 {
+			t.Error(name, "gives nothing to look at")
+		}
+		for i := range kept {
+			rows, ok := call()
+			room := rows[i][:cap(rows[i])]
+			for k := range room {
+				room[k] = -99
+			}
+			rows[i] = kept[i]
+			wantRowsOr(t, fmt.Sprint(name, " behind a change of ", i), true, kept, rows, ok)
+			clear(rows[:cap(rows)])
+		}
+		again, ok := call()
+		wantRowsOr(t, name, true, kept, again, ok)
 	}
 }
 
@@ -164,4 +214,21 @@ func requireFailures(t *testing.T, what string, told map[string]string, failing 
 			t.Errorf("%s with %s: %s", name, what, results)
 		}
 	}
+}
+
+// changedTexts returns a text with each place left out, and with other signs at it and before it.
+func changedTexts(text string) []string {
+	var changed []string
+	for i := range len(text) + 1 {
+		for _, sign := range []string{"0", "1", "2", "6", "7", "8", "9", "i", "x", "-", ":", ",", "+", " ", "_", ".", "I", "\n", "\x00", "\xff"} {
+			changed = append(changed, text[:i]+sign+text[i:])
+			if i < len(text) {
+				changed = append(changed, text[:i]+sign+text[i+1:])
+			}
+		}
+		if i < len(text) {
+			changed = append(changed, text[:i]+text[i+1:], text[:i])
+		}
+	}
+	return changed
 }

@@ -794,23 +794,6 @@ func checkParse(t *testing.T, text string) {
 	wantIsles(t, fmt.Sprintf("ParseIsles %q", text), exists, want, s, ok)
 }
 
-// changedTexts returns a text with each place left out, and with other signs at it and before it.
-func changedTexts(text string) []string {
-	var changed []string
-	for i := range len(text) + 1 {
-		for _, sign := range []string{"0", "1", "2", "6", "7", "8", "9", "i", "-", ":", ",", "+", " ", "_", ".", "I", "\n", "\x00", "\xff"} {
-			changed = append(changed, text[:i]+sign+text[i:])
-			if i < len(text) {
-				changed = append(changed, text[:i]+sign+text[i+1:])
-			}
-		}
-		if i < len(text) {
-			changed = append(changed, text[:i]+text[i+1:], text[:i])
-		}
-	}
-	return changed
-}
-
 func TestChangedTextsOfIsles(t *testing.T) {
 	texts := []string{"1i", "7i", "2i0-1:0", "3i0-1:10,0-2:1000", exampleIsles, "7i5-6:999,0-1:100", "7i" + strings.Repeat("0-6:7,", 13) + "0-6:7"}
 	for _, text := range texts {

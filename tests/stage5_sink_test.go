@@ -257,16 +257,6 @@ func strengthenedByHand(strong string, mostOf func(strong string) int) (int, int
 	return best, max(most, 0)
 }
 
-func wantTwo(t *testing.T, what string, exists bool, want, wantNext, got, gotNext int, ok bool) {
-	t.Helper()
-	if !exists {
-		want, wantNext = 0, 0
-	}
-	if got != want || gotNext != wantNext || ok != exists {
-		t.Errorf("%s: %d %d %v, want %d %d %v", what, got, gotNext, ok, want, wantNext, exists)
-	}
-}
-
 func isSamePlan(plan, other [][]int) bool { return slices.EqualFunc(plan, other, slices.Equal) }
 
 // checkGroup looks at a group that can cross, or not: its plan must be crossings one after the other.
@@ -1010,22 +1000,9 @@ func TestSinkResultsAreNew(t *testing.T) {
 	wantNewLists(t, map[string]func() ([]int, bool){
 		"FirstStrongCrossing": func() ([]int, bool) { return impl.FirstStrongCrossing(exampleSunk, 2) },
 	})
-	want := planByHand(exampleSunk, 3)
-	for member := range want {
-		plan, _ := impl.PlanOfGroup(exampleSunk, 2, 3)
-		for i := range plan[member][:cap(plan[member])] {
-			plan[member][:cap(plan[member])][i] = -99
-		}
-		plan[member] = want[member]
-		if !isSamePlan(plan, want) {
-			t.Error("PlanOfGroup: two crossings share memory:", plan)
-		}
-	}
-	plan, _ := impl.PlanOfGroup(exampleSunk, 2, 3)
-	clear(plan[:cap(plan)])
-	if again, ok := impl.PlanOfGroup(exampleSunk, 2, 3); !isSamePlan(again, want) || !ok {
-		t.Error("PlanOfGroup: what was written to a plan is seen in the next one:", again, ok)
-	}
+	wantNewRows(t, map[string]func() ([][]int, bool){
+		"PlanOfGroup": func() ([][]int, bool) { return impl.PlanOfGroup(exampleSunk, 2, 3) },
+	})
 }
 
 // Promise 11: a text that is returned is new memory even if it has the digits of the argument.
